@@ -9,18 +9,6 @@ import (
 	"loop.example/wholenet/impl"
 )
 
-// strangeNumbers are numbers that are out of the range of most arguments.
-var strangeNumbers = []int{math.MinInt, -256, -128, -16, -2, -1, 128, 129, 255, 256, 1 << 32, math.MaxInt}
-
-// sampleData returns so many bytes that have no short period.
-func sampleData(many int) []byte {
-	b := make([]byte, many)
-	for i := range b {
-		b[i] = byte(i*i*7 + i*31 + i>>3)
-	}
-	return b
-}
-
 // sevenBits returns c1 to c7 of a number, c1 at the index 1.
 func sevenBits(code int) [8]int {
 	var c [8]int
@@ -307,29 +295,23 @@ func TestDecodeBytesInvalid(t *testing.T) {
 	}
 }
 
-// TestBitsShareNoMemory turns every result, up to its capacity, and looks whether an argument, or what lies behind it, has changed.
+// TestBitsShareNoMemory is for the results of bytes, and for the arguments of all functions.
 func TestBitsShareNoMemory(t *testing.T) {
-	whole := []byte{1, 2, 3, 4, 99, 98, 97, 96}
-	before := slices.Clone(whole)
-	b := whole[:4]
-	spoil := func(name string, got []byte) {
-		for i := range got[:cap(got)] {
-			got[:cap(got)][i] ^= 255
-		}
-		if !bytes.Equal(whole, before) {
-			t.Errorf("%s shares memory with its argument", name)
-			copy(whole, before)
-		}
-	}
-	flipped, _ := impl.FlipBit(b, 3)
-	spoil("FlipBit", flipped)
-	spoil("EncodeBytes", impl.EncodeBytes(b))
-	decoded, _ := impl.DecodeBytes(b)
-	spoil("DecodeBytes", decoded)
-	impl.BitsOf(b)
-	impl.ParityOf(b)
-	impl.Distance(b, b)
-	spoil("another function", nil)
+	checkMemory(t, "FlipBit", 4, func(b []byte) []byte {
+		flipped, _ := impl.FlipBit(b, 3)
+		return flipped
+	})
+	checkMemory(t, "EncodeBytes", 4, impl.EncodeBytes)
+	checkMemory(t, "DecodeBytes", 4, func(b []byte) []byte {
+		decoded, _ := impl.DecodeBytes(b)
+		return decoded
+	})
+	checkMemory(t, "another function", 4, func(b []byte) []byte {
+		impl.BitsOf(b)
+		impl.ParityOf(b)
+		impl.Distance(b, b)
+		return nil
+	})
 	bits := []int{0, 1, 0, 1, 1, 0, 1, 1, 5, 6}
 	kept := slices.Clone(bits)
 	impl.BytesOf(bits[:8])
