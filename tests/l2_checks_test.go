@@ -2,6 +2,9 @@ package tests
 
 import (
 	"bytes"
+	"go/ast"
+	"go/parser"
+	"go/token"
 	"math"
 	"testing"
 
@@ -70,6 +73,55 @@ func withCheck(b []byte) []byte {
 func TestCheckConstants(t *testing.T) {
 	if impl.CrcPoly != 4129 || impl.CrcStart != 65535 {
 		t.Errorf("CrcPoly = %d, CrcStart = %d", impl.CrcPoly, impl.CrcStart)
+	}
+}
+
+// readsRows reports whether a function reads crcRows: it names it elsewhere than
+// where it assigns.
+func readsRows(f *ast.FuncDecl) bool {
+	reads := 0
+	ast.Inspect(f, func(n ast.Node) bool {
+		if id, ok := n.(*ast.Ident); ok && id.Name == "crcRows" {
+			reads++
+		}
+		if set, ok := n.(*ast.AssignStmt); ok {
+			for _, to := range set.Lhs {
+				ast.Inspect(to, func(n ast.Node) bool {
+					if id, ok := n.(*ast.Ident); ok && id.Name == "crcRows" {
+						reads--
+					}
+					return true
+				})
+			}
+		}
+		return true
+	})
+	return reads > 0
+}
+
+// TestCrcRowsStay looks in the text of the chapter for the table that is built
+// once, and for an exported function that reads it.
+func TestCrcRowsStay(t *testing.T) {
+	file, err := parser.ParseFile(token.NewFileSet(), "../impl/l2_checks.go", nil, 0)
+	if err != nil {
+		t.Fatal(err)
+	}
+	built, read := false, false
+	for _, d := range file.Decls {
+		switch x := d.(type) {
+		case *ast.FuncDecl:
+			read = read || x.Name.IsExported() && readsRows(x)
+		case *ast.GenDecl:
+			for _, s := range x.Specs {
+				v, ok := s.(*ast.ValueSpec)
+				if ok && x.Tok == token.VAR && v.Names[0].Name == "crcRows" && len(v.Values) == 1 {
+					_, built = v.Values[0].(*ast.CallExpr)
+				}
+			}
+		}
+	}
+	if !built || !read {
+		t.Errorf("crcRows is built once: %v, and read by an exported function: %v", built, read)
 	}
 }
 
