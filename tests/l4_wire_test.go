@@ -29,14 +29,7 @@ func fatesOf(many int) [][]int {
 }
 
 // mixedFates returns so many fates that have no short period.
-func mixedFates(many, seed int) []int {
-	fates := make([]int, many)
-	for i := range fates {
-		seed = (seed*1103515245 + 12345) % (1 << 31)
-		fates[i] = (seed >> 16) % 5
-	}
-	return fates
-}
+func mixedFates(many, seed int) []int { return mixedNumbers(many, 5, seed) }
 
 // badFates are lists of numbers that are no fates, for one of them or for their length.
 func badFates() [][]int {
